@@ -250,8 +250,11 @@ func stands(a, b api.Row, keys int) int {
 	return 0
 }
 
-// numbered are the numbers of rows in order: of those that are the same the lower number is ahead.
+// numbered are the numbers of rows in order: of those that are the same the lower number is ahead; none by fewer columns than none.
 func numbered(rows []api.Row, keys int) []int {
+	if keys < 0 {
+		return nil
+	}
 	l := below(len(rows))
 	slices.SortFunc(l, func(a, b int) int { return cmp.Or(stands(rows[a], rows[b], keys), cmp.Compare(a, b)) })
 	return l

@@ -49,8 +49,9 @@ func TestOrder(t *testing.T) {
 		keys int
 		want []int
 	}{
-		{least, []int{0, 1, 2, 3, 4}},
-		{-1, []int{0, 1, 2, 3, 4}},
+		{least, nil},
+		{-2, nil},
+		{-1, nil},
 		{0, []int{0, 1, 2, 3, 4}},
 		{1, []int{1, 3, 4, 0, 2}},
 		{2, []int{1, 3, 4, 2, 0}},
@@ -71,7 +72,25 @@ func TestOrder(t *testing.T) {
 	}
 }
 
-// Rows of all manners, by columns from none to more than there are.
+// By fewer columns than none no row has a number; by none all have theirs, as they came.
+func TestOrderByNoColumns(t *testing.T) {
+	manners := [][]api.Row{
+		nil, {}, {nil}, {{}}, {{{}}}, {nums(7)}, {nums(3), nums(1), nums(2)}, {nums(1), nil, {}, {txt("a"), {}}, nums(0, 5)},
+		make([]api.Row, 65), stir(9).rows([]int{api.Int, api.Text}, 300, 9), stir(11).rows([]int{api.Text}, limit+1, 900),
+	}
+	for _, rows := range manners {
+		for _, keys := range []int{-1, -2, -1 << 32, least + 1, least} {
+			if got := Order(rows, keys); len(got) != 0 {
+				t.Errorf("Order of %d rows by %d: %d numbers", len(rows), keys, len(got))
+			}
+		}
+		if got := Order(rows, 0); !slices.Equal(got, below(len(rows))) {
+			t.Errorf("Order of %d rows by 0: %v", len(rows), got)
+		}
+	}
+}
+
+// Rows of all manners, by columns from fewer than none to more than there are.
 func TestOrderOfAllManners(t *testing.T) {
 	keys := []int{least, -2, -1, 0, 1, 2, 3, 4, 5, 17, 1 << 32, great}
 	s := stir(5)
