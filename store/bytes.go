@@ -166,7 +166,9 @@ func takeContent(r *reader, t api.Table, now int) content {
 		c.files = append(c.files, takeFile(r, t, p, count))
 	}
 	laid, errno := mover.Lives(make([]api.Row, count), c.born, c.marks)
-	r.ask(errno == api.OK && allHold(slices.Concat(laid, lives), func(life api.Live) bool { return isUpTo(now, life) }))
+	all := slices.Concat(laid, lives)
+	r.ask(errno == api.OK && allHold(all, func(life api.Live) bool { return isUpTo(now, life) }))
+	r.ask(slices.IsSortedFunc(all, func(a, b api.Live) int { return a.Born - b.Born }))
 	if !r.failed {
 		c.written = writtenOf(lives)
 	}
@@ -194,7 +196,7 @@ func writtenOf(lives []api.Live) *wos.Store {
 // takeFile takes what is laid of a projection, of so many rows.
 func takeFile(r *reader, t api.Table, p api.Projection, count int) file {
 	// By no keys rows stand as they came: that order is not put.
-	f := file{order: segment.Order(make([]api.Row, count), 0)}
+	f := file{order: segment.Order(make([]api.Row, count), 0), twin: &twin{}}
 	if p.Keys > 0 {
 		f.order = take(r, func(s string) ([]int, int, api.Errno) { return jindex.Take(s, count) })
 	}
@@ -202,21 +204,35 @@ func takeFile(r *reader, t api.Table, p api.Projection, count int) file {
 	f.Segment = api.Segment{Kinds: kinds, Keys: p.Keys, Count: count, Cols: make([][]api.Ref, len(kinds))}
 	for col := range f.Cols {
 		for first := 0; first < count; first += api.BlockCells {
-			f.Cols[col] = append(f.Cols[col], takeRef(r, min(api.BlockCells, count-first)))
+			f.Cols[col] = append(f.Cols[col], takeRef(r, min(api.BlockCells, count-first), t.Columns[p.Cols[col]]))
 		}
 	}
 	r.ask(segment.Check(f.Segment) == api.OK)
 	return f
 }
 
-// takeRef takes where a block of so many cells lies, and what is known of them.
-func takeRef(r *reader, count int) api.Ref {
+// takeRef takes where a block of so many cells of a column lies, and what is known of them.
+func takeRef(r *reader, count int, column api.Column) api.Ref {
 	first, bytes, ends := r.number(), r.number(), take(r, cell.Take)
 	if r.ask(len(ends) == 2); r.failed {
 		return api.Ref{}
 	}
 	zone := api.Zone{Min: ends[0], Max: ends[1], Nulls: r.upTo(count), Count: count}
+	r.ask(isOf(column, zone))
 	return api.Ref{At: api.Extent{First: first, Count: extent.For(bytes)}, Bytes: bytes, Zone: zone}
+}
+
+// isOf tells whether a zone may be that of cells that fit a column: what is read of a block is held against its zone, so that all cells fit, if this does.
+func isOf(column api.Column, z api.Zone) bool {
+	if z.Nulls > 0 && !column.Null {
+		return false
+	}
+	if z.Nulls == z.Count {
+		return z.Min == api.Cell{} && z.Max == api.Cell{}
+	}
+	column.Null = false
+	fit := cell.Fits(api.Row{z.Min, z.Max}, []api.Column{column, column}) == api.OK
+	return fit && (z.Min == z.Max || z.Count-z.Nulls > 1 && cell.Compare(z.Min, z.Max) < 0)
 }
 
 // allHold tells whether each one of a list holds.

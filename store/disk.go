@@ -17,6 +17,8 @@ const (
 	journalShare = 1
 	stateShare   = 3
 	nought       = "\x00"
+	lastTurn     = 1 << 32 // that slots may have
+	turnAnew     = 3       // behind the last one; that ahead of it has a slot, too
 )
 
 // regions are a device's blocks behind the slots. They do not mingle, as segments, that come and go, leave gaps: of 2000 blocks the longest state that must have room (146 blocks) finds it in a region of its own, and the segments of the greatest tables that must have it (1620 blocks, whatever the gaps are) in what is left.
@@ -61,13 +63,45 @@ func (s *Store) write(n *draft) api.Errno {
 			return errno
 		}
 	}
-	turn, r := s.turn+1, regionsOf(s.d.Size())
-	if errno := slots.Lay(s.d, r.state(turn, len(n.bytes)), turn, n.bytes); errno != api.OK {
+	turn, errno := s.writeState(n.bytes)
+	if errno != api.OK {
 		return errno
 	}
-	s.journal, _ = journal.Begin(s.d, r.journal, turn)
-	s.state, s.turn = n.state, turn
+	for _, f := range n.freed {
+		f.twin.part()
+	}
+	s.state, s.turn, s.journal = n.state, turn, nil
+	if turn != lastTurn {
+		s.journal, _ = journal.Begin(s.d, regionsOf(s.d.Size()).journal, turn)
+	}
 	return api.OK
+}
+
+// writeState lays a state as that of the next turn.
+func (s *Store) writeState(bytes string) (int, api.Errno) {
+	if s.turn == lastTurn {
+		return turnAnew, s.beginAnew(bytes)
+	}
+	turn := s.turn + 1
+	return turn, slots.Lay(s.d, regionsOf(s.d.Size()).state(turn, len(bytes)), turn, bytes)
+}
+
+// beginAnew lays a state behind that of the last turn, which has no records: its journal can be emptied ahead, so that none of long ago, of a turn that comes again, comes back. What is sure is the last turn's state, till its slot is that of the turn ahead of the new one.
+func (s *Store) beginAnew(bytes string) api.Errno {
+	r := regionsOf(s.d.Size())
+	for k := range r.journal.Count {
+		if errno := s.d.Write(r.journal.First+k, strings.Repeat(nought, api.BlockSize)); errno != api.OK {
+			return errno
+		}
+	}
+	at := r.state(turnAnew, len(bytes))
+	if errno := slots.Lay(s.d, at, turnAnew, bytes); errno != api.OK {
+		return errno
+	}
+	if errno := s.d.Write(lastTurn%slotBlocks, slots.Slot(at, turnAnew-1, bytes)); errno != api.OK {
+		return errno
+	}
+	return s.d.Sync()
 }
 
 // readState reads the state that was laid last.
@@ -90,16 +124,22 @@ func (s *Store) readState() api.Errno {
 	if _, errno := room(size, s.state); errno != api.OK {
 		return errno
 	}
+	for k := range s.tables {
+		if !s.agree(s.d, k) {
+			return api.ErrCorrupt
+		}
+	}
 	return s.readOther()
 }
 
-// readOther asks of the slot that was written ahead of the last one, that it is there: were it noughts, it might be the greater one that was lost.
+// readOther asks of the slot that was written ahead of the last one, that it is there: were it noughts, it might be the greater one that was lost. Beside the last turn's that of a turn anew may stand, which was broken off.
 func (s *Store) readOther() api.Errno {
 	block, errno := s.d.Read((s.turn + 1) % slotBlocks)
 	if errno != api.OK {
 		return errno
 	}
-	if turn, _, _ := vint.Take(block); turn != s.turn-1 {
+	turn, _, _ := vint.Take(block)
+	if turn != s.turn-1 && (s.turn != lastTurn || turn != turnAnew) {
 		return api.ErrCorrupt
 	}
 	return api.OK
@@ -126,7 +166,7 @@ func (s *Store) readJournal() api.Errno {
 	return api.OK
 }
 
-// readBlocks asks of the journal's blocks whether they may stand there: behind the records, so many blocks, only parts of turns ahead, and of one record that was not made sure. Others tell of a record, or a slot, that was lost.
+// readBlocks asks of the journal's blocks whether they may stand there: behind the records, so many blocks, only parts of turns ahead, and of one record that was not made sure; none of the last turn. Others tell of a record, or a slot, that was lost.
 func (s *Store) readBlocks(at api.Extent, records int) api.Errno {
 	for k := range at.Count {
 		block, errno := s.d.Read(at.First + k)
@@ -138,7 +178,7 @@ func (s *Store) readBlocks(at api.Extent, records int) api.Errno {
 		}
 		turn, number, ahead := partOf(block)
 		isOfRecords := k < records || k-ahead == records
-		if number != k || turn > s.turn || turn == s.turn && !isOfRecords {
+		if number != k || turn > s.turn || turn == s.turn && !isOfRecords || turn == lastTurn {
 			return api.ErrCorrupt
 		}
 	}

@@ -25,17 +25,17 @@ type state struct {
 
 // content is a table's rows.
 type content struct {
-	born    []api.Run     // when those came that are laid, by their numbers
-	marks   []api.Mark    // when those of them went that did
-	files   []file        // of each projection what is laid
-	written *wos.Store    // the rows that are not laid
-	parted  []api.Segment // of projections that were removed: views may still read them
+	born    []api.Run  // when those came that are laid, by their numbers
+	marks   []api.Mark // when those of them went that did
+	files   []file     // of each projection what is laid
+	written *wos.Store // the rows that are not laid
 }
 
 // file is what is laid of a projection.
 type file struct {
 	api.Segment
 	order []int // at each place the row's number
+	twin  *twin // what views read of it
 }
 
 // draft is a copy of a state, that is changed, with what is to be written for it.
@@ -44,6 +44,7 @@ type draft struct {
 	d      *device.Device
 	room   *extent.Map    // which blocks are free, in the state that is sure as in the draft
 	beside *device.Device // where segments are laid as long as the draft may still be refused; nil: none was
+	freed  []file         // whose blocks are free when the draft is sure
 	bytes  string         // of its state, when all is done
 }
 
@@ -53,15 +54,6 @@ func first() state { return state{clock: epoch.First()} }
 // copied is the same state, of which tables and contents can be replaced.
 func (s state) copied() state {
 	s.tables, s.contents = slices.Clone(s.tables), slices.Clone(s.contents)
-	return s
-}
-
-// withoutParted is the same state, but that it keeps nothing of projections that were removed.
-func (s state) withoutParted() state {
-	s = s.copied()
-	for k := range s.contents {
-		s.contents[k].parted = nil
-	}
 	return s
 }
 
@@ -84,9 +76,6 @@ func (c content) columns() [][]api.Ref {
 	for _, f := range c.files {
 		all = append(all, f.Cols...)
 	}
-	for _, segment := range c.parted {
-		all = append(all, segment.Cols...)
-	}
 	return all
 }
 
@@ -100,11 +89,32 @@ func (c content) count() int { return c.laid() + c.written.Count() }
 func (s state) laidLives(d *device.Device, k int) ([]api.Live, api.Errno) {
 	t, c := s.tables[k], s.contents[k]
 	which := slices.IndexFunc(t.Projections, func(p api.Projection) bool { return schema.Super(t, p) })
-	rows, errno := c.files[which].read(d, inverse(t.Projections[which].Cols))
+	p, f := t.Projections[which], c.files[which]
+	rows, errno := f.read(d, inverse(p.Cols))
 	if errno != api.OK {
 		return nil, errno
 	}
+	// The blocks tell the rows, the state in which order they stand: of what was laid together it is that of the rows.
+	if own, _ := mover.Project(rows, p.Cols); !slices.Equal(segment.Order(own, p.Keys), f.order) {
+		return nil, api.ErrCorrupt
+	}
 	return mover.Lives(rows, c.born, c.marks)
+}
+
+// agree tells whether zones tell the same of a table's columns in each projection: these have the same cells.
+func (s state) agree(d *device.Device, k int) bool {
+	known := map[int]api.Zone{}
+	for n, f := range s.contents[k].files {
+		reader, _ := segment.Open(d, f.Segment)
+		for col, of := range s.tables[k].Projections[n].Cols {
+			zone, found := known[of]
+			if found && zone != reader.Zone(col) {
+				return false
+			}
+			known[of] = reader.Zone(col)
+		}
+	}
+	return true
 }
 
 // inverse tells at which place each of the numbers 0, 1 and so on stands.
@@ -151,6 +161,7 @@ func (n *draft) drop(name string) api.Errno {
 		return errno
 	}
 	k := schema.Find(n.tables, name)
+	n.freed = append(n.freed, n.contents[k].files...)
 	n.tables, n.contents = tables, slices.Delete(n.contents, k, k+1)
 	return api.OK
 }
@@ -184,9 +195,7 @@ func (n *draft) remove(name, projection string) api.Errno {
 	k := schema.Find(tables, name)
 	which := slices.IndexFunc(n.tables[k].Projections, func(p api.Projection) bool { return p.Name == projection })
 	c := &n.contents[k]
-	if gone := c.files[which].Segment; gone.Count > 0 {
-		c.parted = slices.Concat(c.parted, []api.Segment{gone})
-	}
+	n.freed = append(n.freed, c.files[which])
 	c.files = slices.Delete(slices.Clone(c.files), which, which+1)
 	n.tables = tables
 	return api.OK
@@ -275,6 +284,7 @@ func (n *draft) fill(k int, lives []api.Live) api.Errno {
 		}
 		c.files = append(c.files, f)
 	}
+	n.freed = append(n.freed, n.contents[k].files...)
 	n.contents[k] = c
 	return api.OK
 }
@@ -287,5 +297,5 @@ func (n *draft) build(t api.Table, p api.Projection, rows []api.Row) (file, api.
 	own, _ := mover.Project(rows, p.Cols)
 	kinds, _ := mover.Kinds(t, p)
 	laid, errno := segment.Build(n.beside, n.room, own, kinds, p.Keys)
-	return file{laid, segment.Order(own, p.Keys)}, errno
+	return file{laid, segment.Order(own, p.Keys), &twin{}}, errno
 }

@@ -18,14 +18,69 @@ type View struct {
 	readers []*segment.Reader // of each projection; none: Store.View did not give the view
 }
 
+// twin is what views read of a file: the same blocks on a device of its own. They stay when those on the store's are free, and others need the room; as long as these are the file's, the twin is brought in step with them, so that what is spoilt there is told. That the power is off is told in either case.
+type twin struct {
+	d      *device.Device // the store's
+	blocks []int          // of d, one behind the other
+	own    *device.Device // nil: no view was taken
+	laid   api.Segment    // as it lies on its own device
+	parted bool           // the blocks of d are the file's no more
+}
+
 // viewOf is a view of a table with its rows. These are never changed: the view may have them as they are.
 func viewOf(d *device.Device, t api.Table, c content) *View {
 	v := &View{content: c, table: t}
 	for _, f := range c.files {
-		reader, _ := segment.Open(d, f.Segment)
+		if f.twin.own == nil {
+			f.twin.begin(d, f.Segment)
+		}
+		reader, _ := segment.Open(f.twin.own, f.twin.laid)
 		v.readers = append(v.readers, reader)
 	}
 	return v
+}
+
+// begin lets a twin be that of a segment on a device.
+func (t *twin) begin(d *device.Device, s api.Segment) {
+	t.d, t.laid, t.laid.Cols = d, s, nil
+	for _, refs := range s.Cols {
+		refs = slices.Clone(refs)
+		for k, ref := range refs {
+			refs[k].At.First = len(t.blocks)
+			for n := range ref.At.Count {
+				t.blocks = append(t.blocks, ref.At.First+n)
+			}
+		}
+		t.laid.Cols = append(t.laid.Cols, refs)
+	}
+	t.own, _ = device.New(max(1, len(t.blocks)))
+}
+
+// step brings a twin in step.
+func (t *twin) step() {
+	if t.d.Off() {
+		// A device goes off at what a fuse breaks off.
+		t.own.Fuse(0)
+		t.own.Sync()
+		return
+	}
+	t.own.Crash(nil)
+	if t.parted {
+		return
+	}
+	for at, from := range t.blocks {
+		bytes, _ := t.d.Read(from)
+		t.own.Write(at, bytes)
+	}
+	t.own.Sync()
+}
+
+// part lets a twin stay as it is: the blocks will be others'.
+func (t *twin) part() {
+	if t.own != nil {
+		t.step()
+	}
+	t.parted = true
 }
 
 // Table is the table.
@@ -41,6 +96,7 @@ func (v *View) Reader(p int) *segment.Reader {
 	if !v.has(p) {
 		return nil
 	}
+	v.files[p].twin.step()
 	return v.readers[p]
 }
 

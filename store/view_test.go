@@ -1,9 +1,11 @@
 package store
 
 import (
+	"fmt"
 	"peristyle/api"
 	"peristyle/device"
 	"peristyle/poslist"
+	"peristyle/segment"
 	"slices"
 	"testing"
 )
@@ -68,7 +70,7 @@ func TestViews(t *testing.T) {
 	}
 }
 
-// A view stays as it is behind calls that neither move nor drop its table, whatever is written.
+// A view stays as it is behind all calls, whatever is written.
 func TestViewsBehindCalls(t *testing.T) {
 	calls := []call{
 		inserts("t", pairs(20, 3)...), deletes("t", 0, 12), advances(), inserts("t", pairs(30, 5)...), adds("t", "p", 2, 1, 0), removes("t", "by_b"), adds("t", "by_b", 1, 0), removes("t", "one"), adds("t", "q", 1, 1),
@@ -78,35 +80,32 @@ func TestViewsBehindCalls(t *testing.T) {
 	for _, blocks := range []int{200, 600} {
 		p := made(t, blocks, start...)
 		var views []kept
+		same := func(what string) {
+			for _, one := range views {
+				one.same(t, what)
+			}
+		}
 		for _, c := range calls {
 			views = append(views, p.keep("t"))
 			p.do(c)
-			for _, one := range views {
-				one.same(t, c.name)
-			}
+			same(c.name)
 		}
 		// It is as it was behind a crash, too, as long as nothing is written.
 		p.d.Crash(nil)
-		for _, one := range views {
-			one.same(t, "a crash")
-		}
-		// Behind Move and Drop, and many writes, it ends.
+		same("a crash")
+		// Behind Move and Drop it need not be, but may: what it reads is its own.
 		for k := range 30 {
 			if k%3 == 0 {
 				p.do(deletes("t", p.m.alive(0)[0]), advances())
 			}
 			p.do(inserts("t", pairs(k*5, 4)...), moves("t"))
-			for _, one := range views {
-				one.ends(t)
-			}
+			same("Move")
 		}
 		views = append(views, p.keep("t"))
 		p.do(drops("t"), creates("t", three()...))
 		for k := range 20 {
 			p.do(inserts("t", triples(k, 2)...), moves("t"))
-			for _, one := range views {
-				one.ends(t)
-			}
+			same("Drop")
 		}
 		p.reopen()
 		for _, one := range views {
@@ -131,36 +130,156 @@ func TestWhatAViewTellsByItself(t *testing.T) {
 	}
 }
 
-// Blocks of projections that were removed are kept for views as long as there is room; then they are used.
-func TestRoomOfRemovedProjections(t *testing.T) {
-	for _, blocks := range []int{150, 400, 2000} {
-		p := made(t, blocks, creates("t", two()...), adds("t", "p0", 0, 0, 1), inserts("t", pairs(0, 60)...), moves("t"))
-		one := p.keep("t")
-		for k := range 400 {
-			p.do(removes("t", "p0"), adds("t", "p0", 1+k%2, 1, 0))
-			one.ends(t)
+// held is a view with the readers that it gave when it was taken.
+type held struct {
+	kept
+	readers []*segment.Reader
+}
+
+func (p *pair) hold(table string) held {
+	p.t.Helper()
+	one := held{kept: p.keep(table)}
+	for n := range one.m.tables[one.k].Projections {
+		one.readers = append(one.readers, one.v.Reader(n))
+	}
+	return one
+}
+
+// same tells whether the view, and the readers that it gave, are what they were.
+func (one held) same(t *testing.T, what string) {
+	t.Helper()
+	one.kept.same(t, what)
+	for n, reader := range one.readers {
+		cols := one.m.tables[one.k].Projections[n].Cols
+		var want []api.Row
+		for _, number := range one.m.order(one.k, n) {
+			want = append(want, project(one.m.lives[one.k][number].Row, cols))
 		}
-		p.same("many projections")
-		p.reopen()
+		all, _ := poslist.All(len(want))
+		if got, errno := reader.Rows(from(0, len(cols)), all); errno != api.OK || !sameRows(got, want) {
+			t.Fatalf("behind %s the reader of projection %d tells %v, %d, not %v", what, n, got, errno, want)
+		}
 	}
 }
 
-// What need not be kept for views is not: of no rows, and of tables that were moved.
-func TestWhatIsKeptOfRemovedProjections(t *testing.T) {
-	p := made(t, 400, creates("t", two()...))
-	for range 5 {
-		p.do(adds("t", "p", 1, 0), removes("t", "p"))
+// Views that were taken at any times stay as they were, however many projections come and go; and with 2000 blocks there is room for all of these.
+func TestViewsBehindManyProjections(t *testing.T) {
+	for _, x := range []struct{ blocks, calls int }{{100, 1500}, {300, 1500}, {2000, 3500}} {
+		for seed := range 2 {
+			t.Run(fmt.Sprint(x.blocks, " blocks, ", seed), func(t *testing.T) {
+				t.Parallel()
+				r := stir(500 + seed)
+				p := made(t, x.blocks, creates("t", two()...), adds("t", "p", 1, 0), inserts("t", pairs(0, 20)...), moves("t"), creates("u", three()...), inserts("u", triples(0, 10)...), moves("u"))
+				views, full := []held{p.hold("t"), p.hold("u")}, 0
+				for k := range x.calls {
+					c := anyProjection(r, p.m)
+					if p.try(c) == api.ErrFull {
+						full++
+					}
+					if k%90 == 0 {
+						views = append(views, p.hold(p.m.tables[r.below(2)].Name))
+					}
+					one(r, views).same(t, c.name)
+					one(r, views[:2]).same(t, c.name)
+				}
+				for _, one := range views {
+					one.same(t, "all calls")
+				}
+				p.same("all calls")
+				if full > x.calls/4 {
+					t.Error(full, "calls were refused")
+				}
+			})
+		}
 	}
-	if l := p.s.contents[0].parted; len(l) > 0 {
-		t.Error(l)
+}
+
+// anyProjection is a call that adds a projection of t or u, or takes one away; seldom another one, that does not move t.
+func anyProjection(r *stirrer, m *model) call {
+	k := r.below(2)
+	table := m.tables[k]
+	switch n := r.below(40); {
+	case n == 0 && m.rows() < 80:
+		return inserts(table.Name, r.rows(table.Columns, 1+r.below(3), false)...)
+	case n == 1 && len(m.alive(k)) > 0:
+		return deletes(table.Name, one(r, m.alive(k)))
+	case n == 2:
+		return advances()
+	case n == 3:
+		return raises(m.clock.Low + r.below(m.clock.Now-m.clock.Low+1))
+	case n == 4:
+		return moves("u")
 	}
-	p.do(inserts("t", pairs(0, 9)...), moves("t"), adds("t", "p", 1, 0), removes("t", "p"))
-	if l := p.s.contents[0].parted; len(l) != 1 {
-		t.Error(l)
+	if len(table.Projections) < 3 {
+		return r.adds(table, limits{})
 	}
-	p.do(moves("t"))
-	if l := p.s.contents[0].parted; len(l) > 0 {
-		t.Error(l)
+	return removes(table.Name, one(r, table.Projections).Name)
+}
+
+// So they do behind Move and Drop of their table, and whatever is laid where it was.
+func TestViewsBehindMoveAndDrop(t *testing.T) {
+	for _, blocks := range []int{100, 600} {
+		p := made(t, blocks, creates("t", two()...), adds("t", "p", 2, 1, 0), inserts("t", pairs(0, 30)...), moves("t"))
+		// One of them gave readers, one gives none till all is done.
+		views, late := []held{p.hold("t")}, []kept{p.keep("t")}
+		for k := range 200 {
+			p.do(deletes("t", p.m.alive(p.m.find("t"))[k%3]), advances(), raises(p.m.clock.Now+1), inserts("t", pairs(k, 1)...), moves("t"))
+			if k%20 == 0 {
+				views, late = append(views, p.hold("t")), append(late, p.keep("t"))
+			}
+			if k%50 == 49 {
+				p.do(drops("t"), creates("t", two()...), adds("t", "p", k%3, 1, 0), inserts("t", pairs(k, 30)...), moves("t"))
+			}
+			one(stir(k), views).same(t, "Move")
+		}
+		for n := range views {
+			views[n].same(t, "all calls")
+			late[n].same(t, "all calls")
+		}
+	}
+}
+
+// What is laid is kept for views alone: nothing of what none was taken of; and the blocks of what goes are free at once.
+func TestWhatIsKeptForViews(t *testing.T) {
+	p := made(t, 400, creates("t", two()...), adds("t", "p", 1, 0), inserts("t", pairs(0, 70)[:64]...), moves("t"))
+	left := func() int {
+		m, errno := room(400, p.s.state)
+		if errno != api.OK {
+			t.Fatal(errno)
+		}
+		return m.Left()
+	}
+	for _, f := range p.s.contents[0].files {
+		if f.twin.own != nil {
+			t.Error("a device that no view has")
+		}
+	}
+	p.keep("t")
+	for _, f := range p.s.contents[0].files {
+		blocks := 0
+		for _, ref := range slices.Concat(f.Cols...) {
+			blocks += ref.At.Count
+		}
+		if f.twin.own.Size() != blocks || f.twin.parted {
+			t.Error(f.twin.own.Size(), "blocks, not", blocks)
+		}
+	}
+	ahead := left()
+	for range 20 {
+		p.keep("t")
+		p.do(removes("t", "p"))
+		if left() <= ahead || len(p.s.contents[0].files) != 1 {
+			t.Error(left(), "blocks are free, ahead", ahead)
+		}
+		p.do(adds("t", "p", 1, 0))
+		if left() != ahead {
+			t.Error(left(), "blocks are free, not", ahead)
+		}
+	}
+	p.keep("t")
+	p.do(drops("t"))
+	if free := 400 - regionsOf(400).segments; left() != free {
+		t.Error(left(), "blocks are free, not", free)
 	}
 }
 
@@ -252,28 +371,88 @@ func TestSeekInAProjection(t *testing.T) {
 	}
 }
 
-// A reader is one of the device: it tells of the power, and of bytes that were spoilt.
+// turnedOff lets the power of a device go off.
+func turnedOff(d *device.Device) {
+	d.Fuse(0)
+	d.Sync()
+}
+
+// A reader is one of the device: it tells of the power, and of bytes that were spoilt, as long as the blocks are those of what it reads.
 func TestReaderOfADevice(t *testing.T) {
 	p := made(t, 600, creates("t", intCol("a")), inserts("t", ints(0, 64)...), moves("t"))
 	v, _ := p.s.View("t")
 	all, _ := poslist.All(64)
-	p.d.Fuse(0)
-	p.d.Sync()
-	if _, errno := v.Reader(0).Gather(0, all); errno != api.ErrOff {
-		t.Error(errno)
+	reads := func(want api.Errno) {
+		t.Helper()
+		if l, errno := v.Reader(0).Gather(0, all); errno != want || want == api.OK && len(l) != 64 {
+			t.Error(l, errno)
+		}
 	}
-	if l, errno := v.Visible(0, 1); l.Count() != 64 || errno != api.OK {
-		t.Error(errno)
-	}
-	p.d.Crash(nil)
-	if _, errno := v.Reader(0).Gather(0, all); errno != api.OK {
-		t.Error(errno)
+	for range 2 {
+		turnedOff(p.d)
+		reads(api.ErrOff)
+		if l, errno := v.Visible(0, 1); l.Count() != 64 || errno != api.OK {
+			t.Error(errno)
+		}
+		p.d.Crash(nil)
+		reads(api.OK)
 	}
 	at := p.s.contents[0].columns()[0][0].At.First
 	own, _ := p.d.Read(at)
 	p.d.Spoil(at, bitTurned(own, 50))
-	if _, errno := v.Reader(0).Gather(0, all); errno != api.ErrCorrupt {
-		t.Error(errno)
+	reads(api.ErrCorrupt)
+	p.d.Spoil(at, own)
+	reads(api.OK)
+	// What lies there behind Drop is none of the view's.
+	p.do(drops("t"))
+	p.d.Spoil(at, bitTurned(own, 50))
+	reads(api.OK)
+	turnedOff(p.d)
+	reads(api.ErrOff)
+	p.d.Crash(nil)
+	reads(api.OK)
+}
+
+// What was spoilt when it went stays so, for the views that have it; others read what is right.
+func TestViewsOfASpoiltProjection(t *testing.T) {
+	p := made(t, 600, creates("t", two()...), adds("t", "p", 1, 0), inserts("t", pairs(0, 40)...), moves("t"))
+	v, _ := p.s.View("t")
+	at := p.s.contents[0].files[1].Cols[0][0].At.First
+	own, _ := p.d.Read(at)
+	p.d.Spoil(at, bitTurned(own, 50))
+	p.do(removes("t", "p"))
+	p.d.Spoil(at, own)
+	p.do(adds("t", "p", 1, 0))
+	all, _ := poslist.All(40)
+	if l, errno := v.Reader(1).Gather(0, all); l != nil || errno != api.ErrCorrupt {
+		t.Error(l, errno)
+	}
+	if l, errno := v.Reader(0).Gather(0, all); len(l) != 40 || errno != api.OK {
+		t.Error(l, errno)
+	}
+	p.keep("t").same(t, "Add")
+}
+
+// A call that is broken off parts no view from the device: behind the crash it reads what is there.
+func TestViewsOfWhatWasBrokenOff(t *testing.T) {
+	for _, c := range []call{removes("t", "p"), moves("t"), drops("t")} {
+		for n := 0; ; n++ {
+			p := made(t, 200, creates("t", two()...), adds("t", "p", 1, 0), inserts("t", pairs(0, 40)...), moves("t"), inserts("t", pairs(40, 9)...))
+			one := p.hold("t")
+			p.d.Fuse(n)
+			errno := c.on(p.s)
+			if errno != api.OK {
+				all, _ := poslist.All(40)
+				if l, errno := one.v.Reader(1).Gather(0, all); l != nil || errno != api.ErrOff {
+					t.Error(l, errno)
+				}
+			}
+			p.d.Crash(from(0, n))
+			one.same(t, c.name)
+			if errno == api.OK {
+				break
+			}
+		}
 	}
 }
 
